@@ -264,6 +264,9 @@ func plainClaim(q api.Queue, lane int) told {
 }
 
 func plainPublish(q api.Queue, c api.Claim, payload uint64) told {
+	if c.Lane < 0 || c.Lane >= len(q.Lanes) {
+		return told{e: 5}
+	}
 	k := place(q, c)
 	if k < 0 {
 		return told{e: 102}

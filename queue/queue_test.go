@@ -422,15 +422,11 @@ func TestPublish(t *testing.T) {
 			}
 		}
 		for name, x := range map[string]api.Claim{
-			"another epoch":     {Lane: 1, N: c.N, Epoch: 1},
-			"the epoch before":  {Lane: 1, N: c.N, Epoch: -1},
-			"never made":        {Lane: 1, N: 4},
-			"below 0":           {Lane: 1, N: -1},
-			"of another lane":   {Lane: 0, N: c.N},
-			"of no lane":        {Lane: 3, N: c.N},
-			"of lane -1":        {Lane: -1, N: c.N},
-			"of the least lane": {Lane: math.MinInt, N: c.N},
-			"of the last lane":  {Lane: math.MaxInt, N: c.N},
+			"another epoch":    {Lane: 1, N: c.N, Epoch: 1},
+			"the epoch before": {Lane: 1, N: c.N, Epoch: -1},
+			"never made":       {Lane: 1, N: 4},
+			"below 0":          {Lane: 1, N: -1},
+			"of another lane":  {Lane: 0, N: c.N},
 		} {
 			if queue.Ready(q, x) {
 				t.Errorf("Ready of one that is %s", name)
@@ -453,6 +449,36 @@ func TestPublish(t *testing.T) {
 	if queue.Ready(bad, other[0]) {
 		t.Error("Ready in a queue that may not be")
 	}
+}
+
+// P10.2, and the head of the functions: a claim names its lane, so that Publish at a lane that is none tells so, ahead of what it would tell of the claim; Ready is false there.
+func TestPublishAtNoLane(t *testing.T) {
+	q := made(t, []int{1, 2}, []bool{true, false})
+	open, l := claims(t, q, 1, 2)
+	for _, x := range []struct {
+		q     api.Queue
+		lanes []int
+	}{
+		{api.Queue{}, []int{0, 1, -1, math.MinInt, math.MaxInt}},
+		{api.Queue{Lanes: []api.PlainLane{}, Q: []api.PlainMsg{}}, []int{0, -1}},
+		{q, []int{-1, 2, 3, 16, math.MinInt, math.MaxInt}},
+		{open, []int{-1, 2, 3, 16, math.MinInt, math.MaxInt}},
+	} {
+		for _, lane := range x.lanes {
+			for _, c := range []api.Claim{{}, l[0], l[1], {N: 7, Epoch: 9}, {N: -1, Epoch: -1}} {
+				c.Lane = lane
+				refuses(t, x.q, deed{kind: "Publish", claim: c, payload: 3}, 5)
+				if queue.Ready(x.q, c) {
+					t.Errorf("Ready of %v", c)
+				}
+			}
+		}
+	}
+	refuses(t, q, deed{kind: "Publish", claim: api.Claim{Lane: 0}}, 102)
+	refuses(t, q, deed{kind: "Publish", claim: api.Claim{Lane: 1, Epoch: 1}}, 102)
+	refuses(t, open, deed{kind: "Publish", claim: l[1]}, 103)
+	open.Lanes[0].Credit = 0
+	refuses(t, open, deed{kind: "Publish", claim: api.Claim{Lane: 2}}, 100)
 }
 
 // P10.2: a message has all that its claim has, at all edges of these.

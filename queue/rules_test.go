@@ -175,6 +175,7 @@ func TestErrorsInOrder(t *testing.T) {
 		{empty, deed{kind: "Take"}, 100},
 		{spent, deed{kind: "Claim"}, 101},
 		{spent, deed{kind: "Reset"}, 104},
+		{spent, deed{kind: "Publish", claim: api.Claim{Lane: 1, N: 5, Epoch: last}}, 5},
 		{spent, deed{kind: "Publish", claim: api.Claim{N: 5, Epoch: last}}, 102},
 		{spent, deed{kind: "Retire", msg: api.PlainMsg{Epoch: last}}, 102},
 	} {
